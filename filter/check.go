@@ -56,10 +56,19 @@ func isRuled(desc, rule string) bool {
 	switch {
 	case rule == "":
 		return isDesc(desc)
-	case strings.EqualFold(rule, "dn"):
+	case isDn(rule):
 		return false
 	}
 	return isWord(rule) && (desc == "" || isDesc(desc))
+}
+
+// isDn: the four spellings stand here one by one, since strings.EqualFold would lean on the library's tables of all letters, greater than a table may be.
+func isDn(word string) bool {
+	switch word {
+	case "dn", "dN", "Dn", "DN":
+		return true
+	}
+	return false
 }
 
 // isDesc tells whether s has a description's form.

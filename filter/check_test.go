@@ -159,6 +159,22 @@ func TestCheckWords(t *testing.T) {
 	}
 }
 
+// The word dn is no rule, however it is spelt; it may be a description's, and words near it may be rules.
+func TestCheckDn(t *testing.T) {
+	for _, word := range []string{"dn", "dN", "Dn", "DN"} {
+		checkRefused(t, rule("", word, "a"), api.ErrFilter)
+		checkRefused(t, rule("cn", word, "a"), api.ErrFilter)
+		checkRefused(t, ruleDn("", word, "a"), api.ErrFilter)
+		checkRefused(t, not(and(have("cn"), ruleDn("cn", word, ""))), api.ErrFilter)
+		checkTaken(t, rule(word, "", "a"), 1, 1)
+		checkTaken(t, equal(word, "a"), 1, 1)
+	}
+	for _, word := range []string{"d", "n", "dnx", "xdn", "d-n", "D", "N", "DNX", "XDN", "D-N", "nd", "dn-", "dn1", "dndn"} {
+		checkTaken(t, rule("", word, "a"), 1, 1)
+		checkTaken(t, ruleDn("cn", word, "a"), 1, 1)
+	}
+}
+
 // All short texts of the signs that count.
 func TestCheckWordsAll(t *testing.T) {
 	level := []string{""}
